@@ -95,18 +95,24 @@ func checkRule(rule CalRule) error {
 }
 
 func checkBut(but []int) error {
-	if len(but) > CalMaxBut {
+	if len(but) > CalMaxBut || !ascending(but) {
 		return errBut
 	}
-	for i, tick := range but {
+	for _, tick := range but {
 		if !within(tick, 0, CalMaxTick) {
 			return errBounds
 		}
-		if i > 0 && tick <= but[i-1] {
-			return errBut
-		}
 	}
 	return nil
+}
+
+func ascending(ticks []int) bool {
+	for i := 1; i < len(ticks); i++ {
+		if ticks[i] <= ticks[i-1] {
+			return false
+		}
+	}
+	return true
 }
 
 func within(n int, low int, high int) bool {
@@ -130,13 +136,21 @@ func CalNext(rules []CalRule, tick int) int {
 // CalCount is how many ticks of rules there are behind a tick, up to another one.
 func CalCount(rules []CalRule, from int, to int) int {
 	count := 0
-	for tick := range dueAbove(rules, from) {
-		if tick > to {
-			break
-		}
+	for range dueBetween(rules, from, to) {
 		count++
 	}
 	return count
+}
+
+// dueBetween tells the due ticks above from and not above to, ascending.
+func dueBetween(rules []CalRule, from int, to int) iter.Seq[int] {
+	return func(yield func(int) bool) {
+		for tick := range dueAbove(rules, from) {
+			if tick > to || !yield(tick) {
+				return
+			}
+		}
+	}
 }
 
 // dueAbove tells the due ticks above a tick, ascending; none, if the rules are not ok.
@@ -205,12 +219,18 @@ func ruleLine(rule CalRule) string {
 	line := "every " + strconv.Itoa(rule.Every) + " at " + strconv.Itoa(rule.At) +
 		" from " + strconv.Itoa(rule.From) + " to " + strconv.Itoa(rule.To)
 	if len(rule.But) > 0 {
-		line += " but"
-	}
-	for _, tick := range rule.But {
-		line += " " + strconv.Itoa(tick)
+		line += " but" + spaced(rule.But)
 	}
 	return line + "\n"
+}
+
+// spaced writes ticks, a space ahead of each.
+func spaced(ticks []int) string {
+	text := ""
+	for _, tick := range ticks {
+		text += " " + strconv.Itoa(tick)
+	}
+	return text
 }
 
 // CalRead reads rules.
